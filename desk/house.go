@@ -24,7 +24,7 @@ type house struct {
 	made    *machine.Machine // the program's, once a line has asked for it: many lines may ask, and it may be great
 }
 
-// forms are all lines that there are, by their words.
+// forms are all lines that there are, in order of their words: so help tells them.
 func (h *house) forms() []form {
 	const more = api.MaxText // a line has no more words than that
 	return []form{
